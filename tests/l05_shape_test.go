@@ -510,6 +510,32 @@ func TestWhichHoleComesFirst(t *testing.T) {
 	checkFaults(t, list)
 }
 
+// A hole that is wrong in each way, whose form, or that of the whole shape, is wrong as well.
+func TestFormComesAheadOfAllElse(t *testing.T) {
+	sq, h := square(0, 0, 20), hole(5, 5, 5)
+	var list []faulty
+	for _, a := range wrongHoles() {
+		ring := a.s.Rings[0]
+		list = append(list,
+			faulty{"no kind, and: " + a.what, shape(0, sq, h, ring), impl.ShapeForm, 0, 0},
+			faulty{"more rows than one, and: " + a.what, shape(impl.ShapeLine, sq, h, ring), impl.ShapeForm, 0, 0},
+			faulty{"too many rows, and: " + a.what, area(append([][]impl.Pt{sq, h, ring}, repeated(impl.MaxRings-2, hole(1, 1, 2))...)...), impl.ShapeForm, 0, 0},
+		)
+		if a.code == impl.ShapeForm {
+			continue
+		}
+		n := len(ring)
+		list = append(list,
+			faulty{"too few points, and: " + a.what, area(sq, h, ring[:2]), impl.ShapeForm, 2, 0},
+			faulty{"too many points, and: " + a.what, area(sq, h, slices.Concat(repeated(impl.MaxRing/n+1, ring)...)), impl.ShapeForm, 2, 0},
+			faulty{"a wrong point, and: " + a.what, area(sq, h, slices.Concat(ring, row(0, most+1))), impl.ShapeForm, 2, n},
+			faulty{"neighbours alike, and: " + a.what, area(sq, h, slices.Concat(ring, ring[n-1:])), impl.ShapeForm, 2, n},
+			faulty{"the last as the first, and: " + a.what, area(sq, h, slices.Concat(ring, ring[:1])), impl.ShapeForm, 2, 0},
+		)
+	}
+	checkFaults(t, list)
+}
+
 // One ring that is wrong in two ways.
 func TestWhichFaultOfARingComesFirst(t *testing.T) {
 	sq, h := square(0, 0, 20), hole(5, 5, 5)
