@@ -72,6 +72,11 @@ func manyHoles(count, n int) [][]impl.Pt {
 	return out
 }
 
+// frameAnd is a frame of MaxRing points with so many holes, of n points each.
+func frameAnd(count, n int) impl.Shape {
+	return area(append([][]impl.Pt{frame(impl.MaxRing)}, manyHoles(count, n)...)...)
+}
+
 func repeated(n int, one []impl.Pt) [][]impl.Pt {
 	var out [][]impl.Pt
 	for range n {

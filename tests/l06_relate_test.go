@@ -1197,6 +1197,18 @@ func (d *dice) greatShape(kind int) impl.Shape {
 	return s
 }
 
+// turnAbout is good or not, near or great, and of another kind from number to number.
+func (d *dice) turnAbout(i int) impl.Shape {
+	kind := 1 + i%5
+	switch i % 3 {
+	case 0:
+		return d.nearShape(kind)
+	case 1:
+		return d.greatShape(kind)
+	}
+	return d.shape()
+}
+
 func TestGreatShapesByChance(t *testing.T) {
 	w := wantMeet{}
 	d := &dice{63}
@@ -1299,6 +1311,26 @@ func wrongShapes() map[string]impl.Shape {
 			list[fmt.Sprint("lines, one beyond: ", w)] = lines(row(0, 0, 3, 3), []impl.Pt{w, pt(3, 3)})
 			list[fmt.Sprint("an area, one beyond: ", w)] = area([]impl.Pt{pt(0, 0), pt(3, 0), w})
 		}
+	}
+	return list
+}
+
+// spoiltShapes are good ones of which one thing was made wrong, and others that are not good.
+func spoiltShapes() []impl.Shape {
+	list := []impl.Shape{{}, point(math.MaxInt, 0), point(0, math.MinInt), point(most+1, 0), point(0, -most-1), area(hole(0, 0, 9)), area(row(0, 0, 9, 9, 9, 0, 0, 9))}
+	for _, s := range goodShapes() {
+		for _, kind := range noKinds() {
+			list = append(list, impl.Shape{Kind: kind, Rings: s.Rings})
+		}
+		list = append(list, impl.Shape{Kind: s.Kind}, impl.Shape{Kind: s.Kind, Rings: append(cloned(s).Rings, nil)})
+		for _, wrong := range wrongPts() {
+			bad := cloned(s)
+			bad.Rings[len(bad.Rings)-1][0] = wrong
+			list = append(list, bad)
+		}
+	}
+	for _, kind := range allKinds() {
+		list = append(list, shape(kind, nil), shape(kind, []impl.Pt{}), shape(kind, row(1, 2), nil))
 	}
 	return list
 }

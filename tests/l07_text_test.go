@@ -256,9 +256,6 @@ func TestTextsOfOtherKinds(t *testing.T) {
 // Rows of just MaxRing points, and shapes of just MaxRings rows; one more is not good, but such a text.
 func TestTextsAtTheLimits(t *testing.T) {
 	w := newWantText()
-	frameAnd := func(count, n int) impl.Shape {
-		return area(append([][]impl.Pt{frame(impl.MaxRing)}, manyHoles(count, n)...)...)
-	}
 	for _, s := range []impl.Shape{
 		shape(impl.ShapePoints, bow(-30, -900, impl.MaxRing)), shape(impl.ShapeLine, bow(-30, -900, impl.MaxRing)), lines(bow(-30, -900, impl.MaxRing)), lines(repeated(impl.MaxRings, row(0, 0, 1, 1))...), lines(repeated(impl.MaxRings, bow(0, 0, impl.MaxRing))...),
 		area(bow(0, 0, impl.MaxRing)), frameAnd(impl.MaxRings-1, 3), frameAnd(impl.MaxRings-1, impl.MaxRing),
@@ -375,26 +372,7 @@ func TestTextsOfShapesThatAreNotGood(t *testing.T) {
 }
 
 func TestShapesWithoutText(t *testing.T) {
-	checkNoText(t, impl.Shape{})
-	for what, s := range goodShapes() {
-		for _, kind := range noKinds() {
-			checkNoText(t, impl.Shape{Kind: kind, Rings: s.Rings})
-		}
-		checkNoText(t, impl.Shape{Kind: s.Kind})
-		checkNoText(t, impl.Shape{Kind: s.Kind, Rings: append(cloned(s).Rings, nil)})
-		for _, wrong := range wrongPts() {
-			bad := cloned(s)
-			bad.Rings[len(bad.Rings)-1][0] = wrong
-			checkNoText(t, bad)
-		}
-		t.Log(what)
-	}
-	for _, kind := range allKinds() {
-		checkNoText(t, shape(kind, nil))
-		checkNoText(t, shape(kind, []impl.Pt{}))
-		checkNoText(t, shape(kind, row(1, 2), nil))
-	}
-	for _, s := range []impl.Shape{point(math.MaxInt, 0), point(0, math.MinInt), point(most+1, 0), point(0, -most-1), area(hole(0, 0, 9)), area(row(0, 0, 9, 9, 9, 0, 0, 9))} {
+	for _, s := range spoiltShapes() {
 		checkNoText(t, s)
 	}
 }
@@ -522,16 +500,7 @@ func TestTextsByChance(t *testing.T) {
 	d := &dice{71}
 	codes := map[[2]int]int{}
 	for i := range 3 * rounds {
-		var s impl.Shape
-		kind := 1 + i%5
-		switch i % 3 {
-		case 0:
-			s = d.nearShape(kind)
-		case 1:
-			s = d.greatShape(kind)
-		default:
-			s = d.shape()
-		}
+		s := d.turnAbout(i)
 		if good(s) {
 			checkThereAndBack(t, s)
 		} else {
@@ -621,12 +590,14 @@ func TestLongTexts(t *testing.T) {
 	checkParse(t, strings.Repeat("\xff", 1000000), impl.TextForm, 0)
 }
 
-func TestShapeTextLeavesItsShape(t *testing.T) {
+// checkLeavesShapes: a call changes no shape, nor what lies behind its rows, and looks at nothing there.
+func checkLeavesShapes(t *testing.T, call func(impl.Shape) string) {
+	t.Helper()
 	for _, odd := range []impl.Pt{pt(5, 5), pt(most+1, 0), pt(math.MinInt, math.MaxInt)} {
 		for _, s := range shapesForMemory() {
 			roomy, memory, all := roomyShape(s, odd)
 			points, rows := slices.Clone(memory), cloned(impl.Shape{Rings: all})
-			if impl.ShapeText(roomy) != impl.ShapeText(s) {
+			if call(roomy) != call(s) {
 				t.Fatal("what lies behind is looked at:", s)
 			}
 			if !slices.Equal(memory, points) || !impl.SameShape(impl.Shape{Rings: all}, rows) || len(roomy.Rings) != len(s.Rings) || roomy.Kind != s.Kind {
@@ -635,6 +606,8 @@ func TestShapeTextLeavesItsShape(t *testing.T) {
 		}
 	}
 }
+
+func TestShapeTextLeavesItsShape(t *testing.T) { checkLeavesShapes(t, impl.ShapeText) }
 
 // A text is what it was when it was told, whatever becomes of its shape.
 func TestTextsOutliveTheirShapes(t *testing.T) {
@@ -663,27 +636,35 @@ func overwrite(s impl.Shape) {
 	}
 }
 
+// checkReadIsItsOwn: a call, which answers s each time, answers it in new memory, each row in its own.
+func checkReadIsItsOwn(t *testing.T, what string, s impl.Shape, call func() impl.Shape) {
+	t.Helper()
+	first, second := call(), call()
+	overwrite(first)
+	if !impl.SameShape(second, s) {
+		t.Error(what, "shares memory with an earlier answer")
+	}
+	if !impl.SameShape(call(), s) {
+		t.Error(what, "is another one later")
+	}
+	// One row, and the room behind it, is none of another one's.
+	for r := range second.Rings {
+		one := call()
+		overwrite(impl.Shape{Rings: [][]impl.Pt{one.Rings[r]}})
+		one.Rings[r] = s.Rings[r]
+		if !impl.SameShape(one, s) {
+			t.Error(what, "has rows that share memory:", r)
+		}
+	}
+}
+
 func TestParsedShapesAreTheirOwn(t *testing.T) {
 	for what, s := range goodShapes() {
 		text := impl.ShapeText(s)
-		first, _, _ := impl.ParseShape(text)
-		second, _, _ := impl.ParseShape(text)
-		overwrite(first)
-		if !impl.SameShape(second, s) {
-			t.Error(what, "shares memory with an earlier answer")
-		}
-		if third, _, _ := impl.ParseShape(text); !impl.SameShape(third, s) {
-			t.Error(what, "is another one later")
-		}
-		// One row, and the room behind it, is none of another one's.
-		for r := range second.Rings {
-			one, _, _ := impl.ParseShape(text)
-			overwrite(impl.Shape{Rings: [][]impl.Pt{one.Rings[r]}})
-			one.Rings[r] = s.Rings[r]
-			if !impl.SameShape(one, s) {
-				t.Error(what, "has rows that share memory:", r)
-			}
-		}
+		checkReadIsItsOwn(t, what, s, func() impl.Shape {
+			got, _, _ := impl.ParseShape(text)
+			return got
+		})
 		if impl.ShapeText(s) != text {
 			t.Error(what, "has another text later")
 		}
