@@ -938,21 +938,24 @@ func TestBytesWithOneChanged(t *testing.T) {
 	}
 }
 
-// Bytes that are doubled, left out, or that have changed their places.
+// moveBytes calls with b's bytes doubled, left out, or in other places, up to so many of them.
+func moveBytes(b []byte, most int, call func([]byte)) {
+	for place := range b {
+		call(b[place:])
+		call(slices.Concat(b[place:], b[:place]))
+		for n := 1; n <= most && place+n <= len(b); n++ {
+			call(slices.Concat(b[:place], b[place+n:]))
+			call(slices.Concat(b[:place+n], b[place:]))
+			turned := slices.Clone(b)
+			slices.Reverse(turned[place : place+n])
+			call(turned)
+		}
+	}
+}
+
 func TestBytesThatAreMoved(t *testing.T) {
 	for _, f := range formsToBreak() {
-		b := f.bytes
-		for place := range b {
-			checkRead(t, b[place:])
-			checkRead(t, slices.Concat(b[place:], b[:place]))
-			for n := 1; n <= 21 && place+n <= len(b); n++ {
-				checkRead(t, slices.Concat(b[:place], b[place+n:]))
-				checkRead(t, slices.Concat(b[:place+n], b[place:]))
-				turned := slices.Clone(b)
-				slices.Reverse(turned[place : place+n])
-				checkRead(t, turned)
-			}
-		}
+		moveBytes(f.bytes, 21, func(b []byte) { checkRead(t, b) })
 	}
 }
 
