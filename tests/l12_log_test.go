@@ -97,20 +97,30 @@ func belonging(list []*logPiece) int {
 	return len(list)
 }
 
+// logPieces are what the sectors of a good disk tell, nil where one is no log sector.
+func logPieces(d impl.Disk, from, to int) []*logPiece {
+	var out []*logPiece
+	for at := from; at <= to; at++ {
+		p, ok := wantPiece(wantSector(d, at, always))
+		if ok {
+			out = append(out, &p)
+		} else {
+			out = append(out, nil)
+		}
+	}
+	return out
+}
+
 func wantOpen(d impl.Disk, from, to int) (impl.Log, [][]byte, bool) {
 	if !wantDiskOk(d) || from < 0 || to < from || to > len(d.Bytes)/sectorSize-1 {
 		return impl.Log{}, nil, false
 	}
-	var list []*logPiece
+	list := logPieces(d, from, to)
 	greatest := 0
-	for at := from; at <= to; at++ {
-		p, ok := wantPiece(wantSector(d, at, always))
-		if !ok {
-			list = append(list, nil)
-			continue
+	for _, p := range list {
+		if p != nil {
+			greatest = max(greatest, int(p.epoch))
 		}
-		greatest = max(greatest, int(p.epoch))
-		list = append(list, &p)
 	}
 	if greatest >= mostEpoch {
 		return impl.Log{}, nil, false
