@@ -3,6 +3,7 @@ package tests
 import (
 	"math/big"
 	"slices"
+	"sync"
 	"testing"
 
 	"loop.example/g00108/impl"
@@ -94,4 +95,30 @@ func wrongNums() map[string]impl.Num {
 		"far too many limbs":       full(5000, 1),
 		"a limb too many, below 0": {Neg: true, Mag: full(impl.MaxLimbs+1, 1).Mag},
 	}
+}
+
+// checkKeepsNothing: what calls tell of each of a list is the same later, in another order, and beside other calls.
+func checkKeepsNothing[T any](t *testing.T, list []T, tell func(T) string, short func(T) string) {
+	t.Helper()
+	first := make([]string, len(list))
+	for i, one := range list {
+		first[i] = tell(one)
+	}
+	for i, one := range slices.Backward(list) {
+		if tell(one) != first[i] {
+			t.Error("another answer later:", short(one))
+		}
+	}
+	var all sync.WaitGroup
+	for worker := range 4 {
+		all.Go(func() {
+			for i := range list {
+				i = (i*7 + worker) % len(list)
+				if tell(list[i]) != first[i] {
+					t.Error("another answer beside others:", short(list[i]))
+				}
+			}
+		})
+	}
+	all.Wait()
 }

@@ -8,7 +8,6 @@ import (
 	"math"
 	"slices"
 	"strings"
-	"sync"
 	"testing"
 
 	"loop.example/g00108/impl"
@@ -2220,25 +2219,5 @@ func TestStoreCallsKeepNothing(t *testing.T) {
 		}
 		return text
 	}
-	first := make([]string, len(list))
-	for i, s := range list {
-		first[i] = tell(s)
-	}
-	for i, s := range slices.Backward(list) {
-		if tell(s) != first[i] {
-			t.Error("another answer later:", shortStore(s))
-		}
-	}
-	var all sync.WaitGroup
-	for worker := range 4 {
-		all.Go(func() {
-			for i := range list {
-				i = (i*7 + worker) % len(list)
-				if tell(list[i]) != first[i] {
-					t.Error("another answer beside others:", shortStore(list[i]))
-				}
-			}
-		})
-	}
-	all.Wait()
+	checkKeepsNothing(t, list, tell, shortStore)
 }
