@@ -997,6 +997,7 @@ func TestTreeBuildByExample(t *testing.T) {
 }
 
 func TestTreeBuildOfMany(t *testing.T) {
+	t.Parallel()
 	d := &dice{154}
 	for count := range 90 {
 		checkTreeBuild(t, d.idBoxes(count))
@@ -1110,6 +1111,7 @@ func (l *life) look(t *testing.T, windows ...impl.Box) {
 }
 
 func TestTreesGrowAndShrink(t *testing.T) {
+	t.Parallel()
 	d := &dice{156}
 	for kind, order := range []func(l *life) int{
 		func(l *life) int { return impl.TreeIds(l.tree)[0] },
@@ -1138,6 +1140,7 @@ func TestTreesGrowAndShrink(t *testing.T) {
 }
 
 func TestTreesByChance(t *testing.T) {
+	t.Parallel()
 	d := &dice{157}
 	deepest, emptied := 0, 0
 	for range 60 {
@@ -1173,6 +1176,7 @@ func TestTreesByChance(t *testing.T) {
 
 // To the limit, one more, and back again.
 func TestTreesFillUp(t *testing.T) {
+	t.Parallel()
 	d := &dice{158}
 	for _, kind := range []func(i int) impl.Box{
 		func(int) impl.Box { return d.treeBox() },
@@ -1224,6 +1228,7 @@ func (d *dice) randomTree(depth int) impl.Node {
 }
 
 func TestTreesOfAnyForm(t *testing.T) {
+	t.Parallel()
 	d := &dice{159}
 	for range 400 {
 		n := d.randomTree(1 + d.below(5))
@@ -1305,6 +1310,9 @@ func TestSpoiltTrees(t *testing.T) {
 	}
 }
 
+// inOneMemory: both lists begin at the same place.
+func inOneMemory[T any](a, b []T) bool { return len(a) > 0 && len(b) > 0 && &a[0] == &b[0] }
+
 // checkEndless: a Node in which there is no end, or more than there is memory for, is no tree, and each call answers; what is answered is not of its memory. The way is that of Kids to go down by.
 func checkEndless(t *testing.T, what string, n impl.Node, way func(impl.Node) int) {
 	t.Helper()
@@ -1322,11 +1330,11 @@ func checkEndless(t *testing.T, what string, n impl.Node, way func(impl.Node) in
 			if got.Box != from.Box || !slices.Equal(got.Boxes, from.Boxes) || !slices.Equal(got.Ids, from.Ids) || len(got.Kids) != len(from.Kids) {
 				t.Fatal("is not as it was:", what)
 			}
+			if inOneMemory(got.Boxes, from.Boxes) || inOneMemory(got.Ids, from.Ids) || inOneMemory(got.Kids, from.Kids) {
+				t.Fatal("shares memory:", what)
+			}
 			if len(got.Kids) == 0 {
 				break
-			}
-			if &got.Kids[0] == &from.Kids[0] {
-				t.Fatal("shares memory:", what)
 			}
 			i := way(from)
 			got, from = got.Kids[i], from.Kids[i]
@@ -1335,6 +1343,7 @@ func checkEndless(t *testing.T, what string, n impl.Node, way func(impl.Node) in
 }
 
 func TestTreesWithoutEnd(t *testing.T) {
+	t.Parallel()
 	b := box(1, 1, 2, 2)
 	first := func(impl.Node) int { return 0 }
 	last := func(n impl.Node) int { return len(n.Kids) - 1 }
@@ -1372,6 +1381,7 @@ func TestTreesWithoutEnd(t *testing.T) {
 }
 
 func TestTreesOfSharedKids(t *testing.T) {
+	t.Parallel()
 	// The same Kids in many places: more than there is memory for, if each were looked at.
 	for _, count := range []int{2, 3, 4} {
 		n := leaf(with(7, box(1, 1, 2, 2)))
@@ -1390,11 +1400,26 @@ func TestTreesOfSharedKids(t *testing.T) {
 		many = inner(many, many)
 	}
 	checkEndless(t, "many times a great many Kids", many, func(impl.Node) int { return 1 })
-	// Behind much that is copied, lists that begin with the same Kid are not the same.
+	// One list of Boxes, one of Ids, or both, in a great many Kids.
+	boxes, ids := make([]impl.Box, 1000000), idsFrom(1, 1000000, 1)
+	for _, broad := range []impl.Node{{Boxes: boxes}, {Ids: ids}, {Boxes: boxes, Ids: ids}} {
+		checkEndless(t, "a great many great leaves", impl.Node{Kids: slices.Repeat([]impl.Node{broad}, 70000)}, func(impl.Node) int { return 69999 })
+	}
+	// Beside more than there is memory for, lists that begin with the same Kid, Box or Id are not the same.
 	kids := []impl.Node{dotLeaf(1, 1), dotLeaf(2, 2)}
-	much := leaf(slices.Repeat([]idBox{at(1, 2, 3)}, 100000)...)
-	for _, list := range [][]impl.Node{{much, inner(kids[:1]...), inner(kids...), inner(kids[1:]...)}, {much, inner(kids...), inner(kids[:1]...), inner(kids[1:]...)}} {
-		checkNoTree(t, "much, and lists that begin alike", inner(list...))
+	boxes, ids = []impl.Box{box(1, 1, 2, 2), box(3, 3, 4, 4)}, []int{5, 6}
+	for _, some := range [][]int{{1, 2}, {2, 1}} {
+		n := impl.Node{Kids: []impl.Node{great}}
+		for _, count := range some {
+			n.Kids = append(n.Kids, impl.Node{Kids: kids[:count]}, impl.Node{Boxes: boxes[:count], Ids: ids[:count]}, impl.Node{Boxes: boxes[:count], Kids: kids[2-count:]}, impl.Node{Ids: ids[2-count:]})
+		}
+		added, _ := impl.TreeAdd(n, 7, world())
+		taken, _ := impl.TreeTake(n, 7)
+		for _, got := range []impl.Node{added, taken} {
+			if len(got.Kids) != len(n.Kids) || !slices.EqualFunc(got.Kids[1:], n.Kids[1:], sameNode) {
+				t.Error("lists that begin alike:", shortNode(impl.Node{Kids: got.Kids[1:]}))
+			}
+		}
 	}
 	// As long as there are not too many, the same Kids are Kids as others are.
 	n := leaf(with(7, box(1, 1, 2, 2)))
@@ -1411,7 +1436,196 @@ func TestTreesOfSharedKids(t *testing.T) {
 	l.look(t)
 }
 
+// checkOwnLists: t and false is answered of what is no tree, with each list of it in memory of its own, but for those below themselves.
+func checkOwnLists(t *testing.T, what string, n impl.Node) {
+	t.Helper()
+	added, ok := impl.TreeAdd(n, 7, box(0, 0, 1, 1))
+	taken, ok2 := impl.TreeTake(n, 7)
+	if ok || ok2 || !sameOnWays(added, n, map[kidsAt]kidsAt{}) || !sameOnWays(taken, n, map[kidsAt]kidsAt{}) {
+		t.Fatal("is not as it was:", what)
+	}
+	spans := slices.Concat(spansOnWays(added, map[kidsAt]kidsAt{}), spansOnWays(taken, map[kidsAt]kidsAt{}), distinct(spansOnWays(n, map[kidsAt]kidsAt{})))
+	slices.SortFunc(spans, func(a, b span) int { return cmp.Compare(a.from, b.from) })
+	for i, s := range spans[1:] {
+		if s.from < spans[i].to {
+			t.Fatal("two lists share memory:", what)
+		}
+	}
+}
+
+// kidsAt tells a list of Kids from others.
+type kidsAt struct {
+	first *impl.Node
+	count int
+}
+
+// sameOnWays: got is as from is, as far as no list lies below itself; where one does, it is the same in both. The way are the lists of got and from that are gone through.
+func sameOnWays(got, from impl.Node, way map[kidsAt]kidsAt) bool {
+	if got.Box != from.Box || !slices.Equal(got.Boxes, from.Boxes) || !slices.Equal(got.Ids, from.Ids) || len(got.Kids) != len(from.Kids) {
+		return false
+	}
+	if len(got.Kids) == 0 {
+		return true
+	}
+	here, there := kidsAt{&got.Kids[0], len(got.Kids)}, kidsAt{&from.Kids[0], len(from.Kids)}
+	if back, within := way[here]; within {
+		return back == there
+	}
+	way[here] = there
+	defer delete(way, here)
+	for i, kid := range got.Kids {
+		if !sameOnWays(kid, from.Kids[i], way) {
+			return false
+		}
+	}
+	return true
+}
+
+// spansOnWays are the spans of all lists, each as often as it stands in n, but not below itself.
+func spansOnWays(n impl.Node, way map[kidsAt]kidsAt) []span {
+	out := slices.Concat(spanOf(n.Boxes), spanOf(n.Ids))
+	if len(n.Kids) == 0 {
+		return append(out, spanOf(n.Kids)...)
+	}
+	here := kidsAt{&n.Kids[0], len(n.Kids)}
+	if _, within := way[here]; within {
+		return out
+	}
+	way[here] = here
+	defer delete(way, here)
+	out = append(out, spanOf(n.Kids)...)
+	for _, kid := range n.Kids {
+		out = append(out, spansOnWays(kid, way)...)
+	}
+	return out
+}
+
+// distinct spans of all that memory: where some lie in one another they are one.
+func distinct(list []span) []span {
+	slices.SortFunc(list, func(a, b span) int { return cmp.Compare(a.from, b.from) })
+	var out []span
+	for _, s := range list {
+		if last := len(out) - 1; last >= 0 && s.from < out[last].to {
+			out[last].to = max(out[last].to, s.to)
+		} else {
+			out = append(out, s)
+		}
+	}
+	return out
+}
+
+// Each list of an answer is by itself, in however many places it stands in what was handed in.
+func TestSharedKidsAreCopiedEachByItself(t *testing.T) {
+	t.Parallel()
+	wrong := impl.Node{Ids: []int{1, 2}}
+	for _, count := range []int{1, 2, 100, 20000, 70000, 300000} {
+		kids := make([]impl.Node, count)
+		checkOwnLists(t, fmt.Sprint("Kids, twice: ", count), impl.Node{Kids: []impl.Node{{Kids: kids}, {Kids: kids}, wrong}})
+		checkOwnLists(t, fmt.Sprint("Kids, and without the first: ", count), impl.Node{Kids: []impl.Node{{Kids: kids}, {Kids: kids[1:]}, {Kids: kids[:count/2]}, wrong}})
+		boxes, ids := make([]impl.Box, count), make([]int, count)
+		checkOwnLists(t, fmt.Sprint("Boxes and Ids, twice: ", count), impl.Node{Kids: []impl.Node{{Boxes: boxes, Ids: ids}, {Boxes: boxes, Ids: ids}, {Boxes: boxes}, {Ids: ids[:count/2]}, wrong}})
+		checkOwnLists(t, fmt.Sprint("its own Boxes: ", count), impl.Node{Boxes: boxes, Kids: []impl.Node{{Boxes: boxes, Ids: ids}, {Ids: ids}, wrong}, Ids: ids})
+	}
+	// Of a great many Ids two lists are not too much.
+	ids := make([]int, 17000000)
+	checkOwnLists(t, "a great many Ids, twice", impl.Node{Kids: []impl.Node{{Ids: ids}, {Ids: ids}}})
+	for _, deep := range []int{2, 5, 10, 14, 15, 16, 17, 18} {
+		n := wrong
+		for range deep {
+			n = impl.Node{Box: box(1, 1, 2, 2), Kids: []impl.Node{n, n}}
+		}
+		checkOwnLists(t, fmt.Sprint("twice, again and again: ", deep), n)
+	}
+	n := impl.Node{Kids: slices.Repeat([]impl.Node{{Kids: slices.Repeat([]impl.Node{{Kids: []impl.Node{wrong, wrong}}}, 300)}}, 300)}
+	checkOwnLists(t, "many times many", n)
+}
+
+// looped is a list of so many Kids, of which the first one has the list itself below it, at so many lists' distance.
+func looped(count, distance int, others ...impl.Node) []impl.Node {
+	list := make([]impl.Node, count)
+	list[0] = onKid(impl.Node{Box: box(1, 1, 2, 2), Kids: list}, distance)
+	copy(list[1:], others)
+	return list
+}
+
+// Where Kids lie within themselves, all other lists are by themselves, too: those above, those below, and those on another way.
+func TestSharedKidsBesideEndlessOnes(t *testing.T) {
+	t.Parallel()
+	shared := []impl.Node{dotLeaf(1, 2), dotLeaf(3, 2)}
+	forks := impl.Node{Kids: []impl.Node{{Kids: shared}, {Kids: shared}, {Kids: shared[1:]}}}
+	for _, count := range []int{1, 2, 10, 40000} {
+		distances := []int{0, 1, 2, 5}
+		if count > 10 {
+			distances = distances[:1]
+		}
+		for _, distance := range distances {
+			loop := looped(1, distance)
+			kids := []impl.Node{{Kids: loop}}
+			what := fmt.Sprint(count, distance)
+			checkOwnLists(t, "a loop, many times: "+what, impl.Node{Kids: slices.Repeat([]impl.Node{{Kids: loop}}, count)})
+			checkOwnLists(t, "Kids above a loop, many times: "+what, impl.Node{Kids: slices.Repeat([]impl.Node{{Kids: kids}}, count)})
+			checkOwnLists(t, "the same below a loop: "+what, impl.Node{Kids: looped(3, distance, forks, forks)})
+			both := looped(2, distance, forks)
+			n := impl.Node{Kids: []impl.Node{{Kids: both}, {Kids: shared}, {Kids: slices.Repeat([]impl.Node{{Kids: shared}}, count)}, {Kids: both}, {Kids: kids}, {Kids: loop}, {Kids: kids}}}
+			checkOwnLists(t, "above, beside and below: "+what, n)
+			checkEndless(t, "by the first ones", n, func(impl.Node) int { return 0 })
+			checkEndless(t, "by the last ones", n, func(n impl.Node) int { return len(n.Kids) - 1 })
+		}
+	}
+	// A list that has itself in a great many places is not too much.
+	wide := looped(40000, 0)
+	for i := range wide {
+		wide[i].Kids = wide
+	}
+	checkOwnLists(t, "itself in many places", impl.Node{Kids: []impl.Node{{Kids: wide}, {Kids: wide}}})
+}
+
+// entwined are so many lists, each of which has in its Kids all of the lists that are meant.
+func entwined(lists int, isMeant func(from, to int) bool) []impl.Node {
+	all := make([][]impl.Node, lists)
+	for i := range all {
+		all[i] = make([]impl.Node, lists)
+	}
+	for from := range all {
+		for to := range all {
+			if isMeant(from, to) {
+				all[from][to] = impl.Node{Ids: []int{from, to}, Kids: all[to]}
+			}
+		}
+	}
+	return all[0]
+}
+
+func TestEntwinedKids(t *testing.T) {
+	t.Parallel()
+	d := &dice{1517}
+	for _, lists := range []int{1, 2, 3, 4, 5} {
+		n := impl.Node{Kids: entwined(lists, func(int, int) bool { return true })}
+		checkOwnLists(t, fmt.Sprint("each with each: ", lists), n)
+		checkOwnLists(t, fmt.Sprint("each with each, twice: ", lists), inner(n, n))
+		for range 60 {
+			n := impl.Node{Kids: entwined(lists, func(int, int) bool { return d.below(2) == 0 })}
+			checkOwnLists(t, fmt.Sprint("by chance: ", lists), inner(n, impl.Node{Ids: []int{1}}, n))
+		}
+	}
+	// There are more ways through these than there is memory for.
+	for _, lists := range []int{13, 40} {
+		n := impl.Node{Kids: entwined(lists, func(int, int) bool { return true })}
+		checkEndless(t, "too many ways, by the first ones", n, func(impl.Node) int { return 0 })
+		i := 0
+		checkEndless(t, "too many ways, by turns", n, func(impl.Node) int { i++; return i % lists })
+	}
+	// What has an end below Kids without one may be too much.
+	n := dotLeaf(7, 1)
+	for range 60 {
+		n = inner(n, n)
+	}
+	checkEndless(t, "a loop with too much", impl.Node{Kids: looped(2, 3, n)}, func(n impl.Node) int { return len(n.Kids) - 1 })
+	checkEndless(t, "a loop beside too much", inner(n, impl.Node{Kids: looped(2, 3)}), func(n impl.Node) int { return len(n.Kids) - 1 })
+}
+
 func TestDeepTrees(t *testing.T) {
+	t.Parallel()
 	const deep = 60000
 	l := &life{tree: onKid(dotLeaf(1, 3), deep), all: allIn(dotLeaf(1, 3))}
 	if !impl.TreeOk(l.tree) || impl.TreeDepth(l.tree) != deep+1 {
@@ -1563,6 +1777,7 @@ func treesForMemory() []impl.Node {
 }
 
 func TestTreeCallsLeaveTheirArguments(t *testing.T) {
+	t.Parallel()
 	for what, call := range treeCalls() {
 		for _, n := range treesForMemory() {
 			want := call(nodeCopy(n))
