@@ -1,6 +1,8 @@
 package tests
 
 import (
+	"iter"
+	"maps"
 	"math/big"
 	"slices"
 	"sync"
@@ -21,6 +23,17 @@ func (d *dice) next() uint64 {
 }
 
 func (d *dice) below(n int) int { return int(d.next() % uint64(n)) }
+
+// inOrder goes through a map by its keys: what chance deals to each of them is the same at every run.
+func inOrder[V any](m map[string]V) iter.Seq2[string, V] {
+	return func(yield func(string, V) bool) {
+		for _, key := range slices.Sorted(maps.Keys(m)) {
+			if !yield(key, m[key]) {
+				return
+			}
+		}
+	}
+}
 
 // limb is often one of those at which carries and guesses go wrong.
 func (d *dice) limb() uint32 {

@@ -549,7 +549,7 @@ func TestFracArgumentsStayAsTheyAre(t *testing.T) {
 }
 
 func TestFracAnswersAreTheirOwn(t *testing.T) {
-	for what, call := range fracCalls() {
+	for what, call := range inOrder(fracCalls()) {
 		for _, p := range fracPairs() {
 			want := call(p[0], p[1])
 			for i := range want {

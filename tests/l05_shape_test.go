@@ -1081,7 +1081,7 @@ func TestSameShape(t *testing.T) {
 
 // One point, or the kind, or a row that is another one: and it is another shape.
 func TestShapesThatAlmostAreTheSame(t *testing.T) {
-	for what, s := range goodShapes() {
+	for what, s := range inOrder(goodShapes()) {
 		if !impl.SameShape(s, s) || !impl.SameShape(s, cloned(s)) {
 			t.Error(what, "is not itself")
 		}
@@ -1141,7 +1141,7 @@ func roomyShape(s impl.Shape, odd impl.Pt) (impl.Shape, []impl.Pt, [][]impl.Pt) 
 func shapesForMemory() []impl.Shape {
 	d := &dice{54}
 	var list []impl.Shape
-	for _, s := range goodShapes() {
+	for _, s := range inOrder(goodShapes()) {
 		list = append(list, s)
 	}
 	for range 300 {

@@ -1318,7 +1318,7 @@ func wrongShapes() map[string]impl.Shape {
 // spoiltShapes are good ones of which one thing was made wrong, and others that are not good.
 func spoiltShapes() []impl.Shape {
 	list := []impl.Shape{{}, point(math.MaxInt, 0), point(0, math.MinInt), point(most+1, 0), point(0, -most-1), area(hole(0, 0, 9)), area(row(0, 0, 9, 9, 9, 0, 0, 9))}
-	for _, s := range goodShapes() {
+	for _, s := range inOrder(goodShapes()) {
 		for _, kind := range noKinds() {
 			list = append(list, impl.Shape{Kind: kind, Rings: s.Rings})
 		}

@@ -383,7 +383,7 @@ func TestTextsThatAreCut(t *testing.T) {
 	for _, w := range writtenShapes() {
 		list = append(list, w.text)
 	}
-	for _, s := range goodShapes() {
+	for _, s := range inOrder(goodShapes()) {
 		list = append(list, impl.ShapeText(s))
 	}
 	for _, text := range append(list, "POINT (123456789 -123456789, 0 0)", "AREA ((1 1), (2 2))") {

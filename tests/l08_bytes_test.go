@@ -709,7 +709,7 @@ func formsToBreak() []*byteForm {
 // Cut at any place, the bytes end within, or ahead of, the number or byte that the next one would belong to.
 func TestBytesThatAreCut(t *testing.T) {
 	list := formsToBreak()
-	for _, s := range goodShapes() {
+	for _, s := range inOrder(goodShapes()) {
 		list = append(list, inOrders(s, 1), inOrders(s, 0), inOrders(s, 1, 0))
 	}
 	for _, f := range list {

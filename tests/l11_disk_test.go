@@ -602,7 +602,7 @@ func checkFollows(t *testing.T, disk impl.Disk, coins []byte) {
 
 func TestWhatFollowsOfDisks(t *testing.T) {
 	d := &dice{121}
-	for what, disk := range rightDisks() {
+	for what, disk := range inOrder(rightDisks()) {
 		t.Log(what)
 		for range 8 {
 			checkFollows(t, disk, d.bytes(d.below(60)))
@@ -647,10 +647,10 @@ func overwriteDisk(d impl.Disk) {
 func disksForMemory() []impl.Disk {
 	d := &dice{122}
 	var list []impl.Disk
-	for _, disk := range rightDisks() {
+	for _, disk := range inOrder(rightDisks()) {
 		list = append(list, disk)
 	}
-	for _, disk := range wrongDisks() {
+	for _, disk := range inOrder(wrongDisks()) {
 		if len(disk.Bytes) <= 2*mostDisk*sectorSize {
 			list = append(list, disk)
 		}
@@ -679,7 +679,7 @@ func TestDiskCallsLeaveTheirArguments(t *testing.T) {
 		room := append(counted(1), filled(0xcd)...)
 		coins := append([]byte{0x5a, 0xff}, filled(0xcd)...)
 		data, few := room[:sectorSize], coins[:2]
-		for what, call := range diskCalls(data, few) {
+		for what, call := range inOrder(diskCalls(data, few)) {
 			call(given)
 			if !same() {
 				t.Fatal(what, "changes its disk:", shortDisk(disk))

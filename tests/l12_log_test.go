@@ -1200,7 +1200,7 @@ func TestLogsByChance(t *testing.T) {
 func logsForMemory(t *testing.T) []openLog {
 	t.Helper()
 	var list []openLog
-	for _, o := range logsToCut(t) {
+	for _, o := range inOrder(logsToCut(t)) {
 		list = append(list, o)
 	}
 	d := &dice{134}

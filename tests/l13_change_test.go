@@ -449,7 +449,7 @@ func wrongMaps() map[string][]impl.Entry {
 		"the zero Entry":        {{}},
 		"no shape":              {{Id: 3}},
 	}
-	for what, s := range wrongShapes() {
+	for what, s := range inOrder(wrongShapes()) {
 		out["first, "+what] = append([]impl.Entry{entry(1, s)}, dots(1, 2, 2, 3)...)
 		out["last, "+what] = append(dots(1, 2, 2, 3), entry(4, s))
 	}
@@ -524,7 +524,7 @@ func TestNoChangesAreOneByte(t *testing.T) {
 
 func TestShapesInChangesComeBack(t *testing.T) {
 	var all []impl.Change
-	for what, s := range goodShapes() {
+	for what, s := range inOrder(goodShapes()) {
 		t.Log(what)
 		b := checkPutChanges(t, []impl.Change{put(9, s)})
 		if len(b) != 8+len(impl.PutShape(s)) || int(binary.LittleEndian.Uint16(b[6:])) != len(impl.PutShape(s)) {
@@ -595,7 +595,7 @@ func changesToBreak() [][]impl.Change {
 
 func TestBytesOfChangesThatAreCut(t *testing.T) {
 	list := changesToBreak()
-	for _, s := range goodShapes() {
+	for _, s := range inOrder(goodShapes()) {
 		list = append(list, []impl.Change{put(5, s)})
 	}
 	for _, changes := range list {
@@ -1046,7 +1046,7 @@ func TestBetweenByExample(t *testing.T) {
 // Shapes that are almost the same are put anew.
 func TestBetweenShapesThatAlmostAreTheSame(t *testing.T) {
 	list := shapesOfEachKind()
-	for _, s := range goodShapes() {
+	for _, s := range inOrder(goodShapes()) {
 		list = append(list, s)
 	}
 	for i, s := range list {
@@ -1077,7 +1077,7 @@ func TestBetweenMapsOfManyKinds(t *testing.T) {
 	for i, s := range shapesOfEachKind() {
 		mixed = append(mixed, entry(3+2*i, s))
 	}
-	for what, s := range goodShapes() {
+	for what, s := range inOrder(goodShapes()) {
 		t.Log(what)
 		good = append(good, entry(1+3*len(good), s))
 	}

@@ -1030,7 +1030,7 @@ func TestRecordsThatDoNotCount(t *testing.T) {
 		nil,
 		{put(1, area(square(0, 0, 9), hole(2, 2, 3)))},
 	}
-	for what, bad := range badRecords() {
+	for what, bad := range inOrder(badRecords()) {
 		for area := range 2 {
 			for _, by := range []int{0, 1} {
 				for at := range len(changes) + 1 {
@@ -1343,7 +1343,7 @@ func wrongStores(s impl.Store) map[string]impl.Store {
 	wrong := map[string]impl.Change{
 		"the zero change": {}, "Id 0": put(0, point(1, 1)), "a great Id": drop(mostId + 1), "no kind": {Kind: 3, Id: 5}, "a wrong shape": put(5, line(0, 0)), "a drop with a shape": {Kind: impl.ChangeDrop, Id: 5, Shape: point(1, 1)},
 	}
-	for what, c := range wrong {
+	for what, c := range inOrder(wrong) {
 		set(what+", first", func(w *impl.Store) { w.Draft = append([]impl.Change{c}, w.Draft...) })
 		set(what+", last", func(w *impl.Store) { w.Draft = append(w.Draft, c) })
 		set(what+", in the midst", func(w *impl.Store) { w.Draft = slices.Concat(w.Draft, []impl.Change{c}, dotPuts(1, 3)) })
@@ -1759,7 +1759,7 @@ func draftsToCut() [][]impl.Change {
 // Behind a crash at any write of a Commit the store opened anew has the map ahead or behind it.
 func TestCrashesWithinACommit(t *testing.T) {
 	d := &dice{148}
-	for what, s := range storesToCut(t) {
+	for what, s := range inOrder(storesToCut(t)) {
 		for _, list := range draftsToCut() {
 			full := drafting(t, s, list...)
 			done, code := checkCommit(t, full)
@@ -1797,7 +1797,7 @@ func TestCrashesWithinACompact(t *testing.T) {
 	list["two rows by how many"] = filledStore(t, 66, many...)
 	list["two rows by bytes"] = filledStore(t, 140, longLine(60), longLine(60), longLine(60), longLine(60), longLine(60))
 	list["an empty map"] = newStore(t, 9)
-	for what, s := range list {
+	for what, s := range inOrder(list) {
 		s = drafting(t, s, put(77, point(7, 7)))
 		steps, _, ok := wantSteps(s)
 		done := compacted(t, s)
@@ -2091,15 +2091,15 @@ func storeCalls() map[string]func(s impl.Store, one impl.Shape) (impl.Store, int
 func storesForMemory(t *testing.T) []impl.Store {
 	t.Helper()
 	var out []impl.Store
-	for _, s := range storesToSpoil(t) {
+	for _, s := range inOrder(storesToSpoil(t)) {
 		out = append(out, s)
-		for what, w := range wrongStores(s) {
+		for what, w := range inOrder(wrongStores(s)) {
 			if len(what)%7 == 0 {
 				out = append(out, w)
 			}
 		}
 	}
-	for _, s := range storesToCut(t) {
+	for _, s := range inOrder(storesToCut(t)) {
 		s.Draft = []impl.Change{put(3, longLine(5)), drop(2), put(1, area(square(0, 0, 9), hole(2, 2, 3)))}
 		out = append(out, s)
 	}
@@ -2113,7 +2113,7 @@ func storesForMemory(t *testing.T) []impl.Store {
 	for i := range 4 {
 		full = committed(t, full, put(1, point(i, i)))
 	}
-	for _, s := range tightStores(t) {
+	for _, s := range inOrder(tightStores(t)) {
 		out = append(out, s)
 	}
 	out = append(out, impl.Store{}, newStore(t, 4), drafting(t, full, put(1, point(9, 9))))

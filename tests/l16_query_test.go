@@ -297,7 +297,7 @@ func checkNearest(t *testing.T, what string, m []impl.Entry, indexes map[string]
 func TestMapsAskedWithAndWithoutAnIndex(t *testing.T) {
 	t.Parallel()
 	d := &dice{1602}
-	for what, m := range mapsToAsk() {
+	for what, m := range inOrder(mapsToAsk()) {
 		indexes := indexesFor(t, d, m)
 		for how, n := range indexes {
 			if !impl.TreeOk(n) {
@@ -507,7 +507,7 @@ func TestMeetingAndCoveredByChance(t *testing.T) {
 	d := &dice{1605}
 	w := wantMeet{}
 	met, covered := 0, 0
-	for what, m := range mapsToAsk() {
+	for what, m := range inOrder(mapsToAsk()) {
 		asks := []impl.Shape{{}, plot(), crown()}
 		for _, kind := range allKinds() {
 			asks = append(asks, d.nearShape(kind), d.nearShape(kind), d.greatShape(kind), d.shape())
@@ -719,7 +719,7 @@ func TestIndexesOfMaps(t *testing.T) {
 
 func TestNothingIsAskedOfWrongMaps(t *testing.T) {
 	t.Parallel()
-	for what, m := range wrongMaps() {
+	for what, m := range inOrder(wrongMaps()) {
 		var right []impl.Entry
 		for _, e := range m {
 			if wantMapOk(append(right, e)) {
@@ -788,7 +788,7 @@ func mapsWithIndexes() map[string][]impl.Entry {
 // What is no index, each for a reason of its own.
 func TestWhatIsNoIndex(t *testing.T) {
 	t.Parallel()
-	for name, m := range mapsWithIndexes() {
+	for name, m := range inOrder(mapsWithIndexes()) {
 		list := boxesOf(m)
 		right := impl.IndexOf(m)
 		checkIndex(t, name, right, m)
@@ -859,7 +859,7 @@ func TestTreesThatAreNoTreesAreNoIndex(t *testing.T) {
 // The map may be another one than that of the index.
 func TestIndexesOfOtherMaps(t *testing.T) {
 	t.Parallel()
-	for name, m := range mapsWithIndexes() {
+	for name, m := range inOrder(mapsWithIndexes()) {
 		n := impl.IndexOf(m)
 		checkNoIndex(t, name+": one more", n, append(slices.Clone(m), entry(mostId, point(1, 1))))
 		for i := range m {
@@ -1035,7 +1035,7 @@ func checkAsked(t *testing.T, what string, got, want []impl.Entry) {
 func TestMapsBehindACommitThatIsCutOff(t *testing.T) {
 	t.Parallel()
 	d := &dice{1614}
-	for what, s := range queriedStores(t) {
+	for what, s := range inOrder(queriedStores(t)) {
 		done, code := checkCommit(t, s)
 		if code != storeGood || sameEntries(done.Map, s.Map) {
 			t.Fatal("the test itself is wrong:", what, code)

@@ -923,7 +923,7 @@ func piecesForMemory(t *testing.T) []impl.Piece {
 	d := &dice{1804}
 	great := impl.Frac{N: full(impl.MaxLimbs, math.MaxUint32), D: full(impl.MaxLimbs, 7)}
 	list := []impl.Piece{{}, pieceFrom(t, "0 0 0 0"), pieceFrom(t, "7/2 -7/2 9/2 -9/2"), {AX: great, AY: great, BX: great, BY: great}, pieceFrom(t, "1 2 3 10000001")}
-	for _, part := range wrongFracs() {
+	for _, part := range inOrder(wrongFracs()) {
 		list = append(list, withPart(list[2], d.below(4), part))
 	}
 	for range 100 {

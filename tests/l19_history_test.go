@@ -64,16 +64,28 @@ func (p past) touched(id int) []int {
 	return out
 }
 
-// ids are all that a change has, and some that none may have, or few.
+// ids are those that the changes have, and some that none may have, or few. Of very many each third is enough, as each is asked of the whole log.
 func (p past) ids() []int {
-	out := append(wrongIds(), 1, 2, 3, 7, 500, mostId-1, mostId)
+	var out []int
 	for _, row := range p.rows {
 		for _, c := range row {
 			out = append(out, c.Id, c.Id+1)
 		}
 	}
 	slices.Sort(out)
-	return slices.Compact(out)
+	out = slices.Compact(out)
+	for len(out) > 60 {
+		out = everyThird(out)
+	}
+	return append(out, append(wrongIds(), 2, 7, 500, mostId-1, mostId)...)
+}
+
+func everyThird(list []int) []int {
+	var out []int
+	for i := 0; i < len(list); i += 3 {
+		out = append(out, list[i])
+	}
+	return out
 }
 
 // timesAround are all numbers of versions, and some beyond on both sides.
@@ -351,7 +363,7 @@ func rowsToKeep() [][]impl.Change {
 func TestHistoriesWithRecordsThatDoNotCount(t *testing.T) {
 	t.Parallel()
 	rows := rowsToKeep()
-	for what, bad := range badRecords() {
+	for what, bad := range inOrder(badRecords()) {
 		for at := range len(rows) + 1 {
 			var records [][]byte
 			for _, row := range rows {
@@ -689,7 +701,7 @@ func packedPieces(p past) int {
 func TestHistoriesBehindACutCommit(t *testing.T) {
 	t.Parallel()
 	d := &dice{1901}
-	for what, s := range storesToCut(t) {
+	for what, s := range inOrder(storesToCut(t)) {
 		before, ok := checkHistory(t, what, s.Disk)
 		if !ok {
 			t.Fatal("no past:", what)
@@ -728,7 +740,7 @@ func TestHistoriesBehindACutCompact(t *testing.T) {
 	list["two rows by how many"] = committed(t, filledStore(t, 66, slices.Repeat([]impl.Shape{point(4, 4)}, 60)...), drop(7))
 	list["two rows by bytes"] = filledStore(t, 140, slices.Repeat([]impl.Shape{longLine(60)}, 5)...)
 	list["no Entries"] = newStore(t, 9)
-	for what, s := range list {
+	for what, s := range inOrder(list) {
 		before, _ := wantPast(s.Disk)
 		behind, _ := wantPast(compacted(t, s).Disk)
 		steps, _, ok := wantSteps(s)
@@ -973,7 +985,7 @@ func disksForHistories(t *testing.T) []impl.Disk {
 	one := area(square(0, 0, 9), hole(2, 2, 3))
 	list := disksOfRows(40, rowsToKeep()...)
 	list = append(list, disksOfRows(60, []impl.Change{put(1, one), put(2, one), put(3, longLine(9))}, []impl.Change{put(4, one), put(1, one)}, []impl.Change{drop(2), put(5, one)}, []impl.Change{drop(1)})...)
-	for _, s := range storesToCut(t) {
+	for _, s := range inOrder(storesToCut(t)) {
 		list = append(list, s.Disk)
 	}
 	for range 20 {
